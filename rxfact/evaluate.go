@@ -26,7 +26,9 @@ func evaluate[T any](l []api.Rx, do operations[T]) (T, bool) {
 		return last
 	}
 	for _, s := range l {
-		found = append(found, apply(s, do, take))
+		// take changes found, and the language leaves open whether an operand is read before or behind a call beside it.
+		made := apply(s, do, take)
+		found = append(found, made)
 	}
 	return take(), true
 }

@@ -308,6 +308,25 @@ func TestP902LongTexts(t *testing.T) {
 	endsAt(t, "a word at the end", steps("a*b."), w+"b"+w, most, []int{most + 1})
 }
 
+// Each part is taken once, by the step that it is an operand of: what is left behind by a step would be an operand of
+// a later one.
+func TestP903EachPartOnce(t *testing.T) {
+	sign := func(s string) func(a string) string { return func(a string) string { return a + s } }
+	signs := func(s string) func(a, b string) string { return func(a, b string) string { return a + b + s } }
+	eachExpression("ae.|*+?", 6, func(s string) {
+		got, ok := evaluate(steps(s), operations[string]{
+			set:   func(api.Set) string { return "a" },
+			empty: func() string { return "e" },
+			cat:   signs("."), alt: signs("|"), star: sign("*"), plus: sign("+"), opt: sign("?"),
+		})
+		if got != s || !ok {
+			t.Errorf("the steps of %s are evaluated as those of %s, %v", s, got, ok)
+		}
+	})
+	hasFacts(t, "aee..", steps("aee.."), facts{false, 1, 1, setOf("a"), setOf("a")})
+	endsAt(t, "aee..", steps("aee.."), "aa", 0, []int{1})
+}
+
 func TestP903Facts(t *testing.T) {
 	none := facts{shortest: -1, longest: -1}
 	for _, x := range []struct {
